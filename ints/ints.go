@@ -102,7 +102,7 @@ func varintReader() func(c byte) (sum uint64, ends, ok bool) {
 		part := uint64(c & 127)
 		ends := c < 128
 		fits := part<<shift>>shift == part
-		needless := ends && c == 0 && shift > 0
+		needless := c == 0 && shift > 0
 		sum |= part << shift
 		shift += 7
 		return sum, ends, fits && !needless

@@ -201,11 +201,9 @@ func TestReadBackOneAfterAnother(t *testing.T) {
 func TestCutAnywhere(t *testing.T) {
 	for _, record := range someRecords() {
 		frame := mustPut(t, record)
-		step := 1 + len(frame)/1000
-		for many := 0; many < len(frame); many += step {
+		for many := range len(frame) {
 			wantError(t, "cut off", frame[:many], api.ErrShort)
 		}
-		wantError(t, "all but one", frame[:len(frame)-1], api.ErrShort)
 	}
 }
 
